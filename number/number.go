@@ -118,6 +118,6 @@ func Mod(a, b int) (int, api.Errno) {
 	if e != api.OK {
 		return 0, e
 	}
-	// The product differs from a by less than b, so it fits into an int.
+	// The product differs from a by less than the absolute value of b, so it fits into an int.
 	return a - b*quotient, api.OK
 }
